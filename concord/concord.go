@@ -1,0 +1,76 @@
+// Package concord: an index of all places of all words of a text, which keeps the text in fewer bits and gives it back: see DOC.md.
+package concord
+
+import (
+	"concord/api"
+	"concord/ends"
+	"concord/turn"
+)
+
+// Suffixes tells a text's ends in their order (P3).
+func Suffixes(t string) ([]int, api.Errno) {
+	if len(t) > api.MaxText {
+		return nil, api.ErrLong
+	}
+	return ends.Sorted(t), api.OK
+}
+
+// Transform turns a text (P4).
+func Transform(t string) (string, int, api.Errno) {
+	if len(t) > api.MaxText {
+		return "", 0, api.ErrLong
+	}
+	turned, row := turn.Forth(t)
+	return turned, row, api.OK
+}
+
+// Restore turns it back (P4).
+func Restore(b string, row int) (string, api.Errno) {
+	if len(b) > api.MaxText {
+		return "", api.ErrLong
+	}
+	text, ok := turn.Back(b, row)
+	if !ok {
+		return "", api.ErrForm
+	}
+	return text, api.OK
+}
+
+// Bits are noughts and ones.
+type Bits struct{}
+
+// NewBits makes bits of a text of noughts and ones (P5).
+func NewBits(s string) (*Bits, api.Errno) { return nil, api.OK }
+
+// Rank tells how many ones there are ahead of a place (P5).
+func (b *Bits) Rank(i int) (int, api.Errno) { return 0, api.OK }
+
+// Select tells where a one is (P5).
+func (b *Bits) Select(k int) (int, api.Errno) { return 0, api.OK }
+
+// Codes tells the bytes' codes, and how many bits the text has by them (P6).
+func Codes(t string) ([]string, int, api.Errno) { return nil, 0, api.OK }
+
+// Index is an index.
+type Index struct{}
+
+// Build makes an index of a text (P7).
+func Build(t string, rate int) (*Index, api.Errno) { return nil, api.OK }
+
+// Len tells how long the text is (P7).
+func (x *Index) Len() int { return 0 }
+
+// Count tells how often a word is in the text (P8).
+func (x *Index) Count(p string) int { return 0 }
+
+// Locate tells where (P8).
+func (x *Index) Locate(p string) []int { return nil }
+
+// Extract gives a piece of the text (P9).
+func (x *Index) Extract(a int, b int) (string, api.Errno) { return "", api.OK }
+
+// Marshal writes an index as bytes (P10).
+func (x *Index) Marshal() string { return "" }
+
+// Unmarshal makes an index of bytes (P11).
+func Unmarshal(d string) (*Index, api.Errno) { return nil, api.OK }
