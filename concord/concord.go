@@ -3,6 +3,8 @@ package concord
 
 import (
 	"concord/api"
+	"concord/bitlist"
+	"concord/codes"
 	"concord/ends"
 	"concord/turn"
 )
@@ -37,19 +39,50 @@ func Restore(b string, row int) (string, api.Errno) {
 }
 
 // Bits are noughts and ones.
-type Bits struct{}
+type Bits struct{ list bitlist.List }
 
 // NewBits makes bits of a text of noughts and ones (P5).
-func NewBits(s string) (*Bits, api.Errno) { return nil, api.OK }
+func NewBits(s string) (*Bits, api.Errno) {
+	runs, ok := bitlist.Read(s)
+	if !ok {
+		return nil, api.ErrForm
+	}
+	b := &Bits{}
+	b.list.Lay(runs...)
+	return b, api.OK
+}
 
 // Rank tells how many ones there are ahead of a place (P5).
-func (b *Bits) Rank(i int) (int, api.Errno) { return 0, api.OK }
+func (b *Bits) Rank(i int) (int, api.Errno) {
+	// NewBits gives nil with an error: there is no place in that.
+	if b == nil || i < 0 || i > b.list.Size() {
+		return 0, api.ErrRange
+	}
+	return b.list.Rank(i), api.OK
+}
 
 // Select tells where a one is (P5).
-func (b *Bits) Select(k int) (int, api.Errno) { return 0, api.OK }
+func (b *Bits) Select(k int) (int, api.Errno) {
+	if b == nil || k < 0 || k >= b.list.Ones() {
+		return 0, api.ErrRange
+	}
+	return b.list.Select(k), api.OK
+}
 
 // Codes tells the bytes' codes, and how many bits the text has by them (P6).
-func Codes(t string) ([]string, int, api.Errno) { return nil, 0, api.OK }
+func Codes(t string) ([]string, int, api.Errno) {
+	if len(t) > api.MaxText {
+		return nil, 0, api.ErrLong
+	}
+	counts := codes.Count(t)
+	texts := make([]string, len(counts))
+	size := 0
+	for c, code := range codes.Of(counts) {
+		texts[c] = code.Text()
+		size += counts[c] * code.Size
+	}
+	return texts, size, api.OK
+}
 
 // Index is an index.
 type Index struct{}

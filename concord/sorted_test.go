@@ -288,6 +288,9 @@ func checkAnswers(t *testing.T, s string) {
 		if l, e := concord.Suffixes(s); l != nil || e != api.ErrLong {
 			t.Errorf("P2: Suffixes of %d bytes: %v, %d", len(s), l, e)
 		}
+		if l, n, e := concord.Codes(s); l != nil || n != 0 || e != api.ErrLong {
+			t.Errorf("P2: Codes of %d bytes: %q, %d, %d", len(s), l, n, e)
+		}
 		return
 	}
 	want, wantRow := plainTransform(s)
@@ -299,5 +302,9 @@ func checkAnswers(t *testing.T, s string) {
 	}
 	if u, e := concord.Restore(want, wantRow); e != api.OK || u != s {
 		t.Errorf("P2: Restore(%.60q, %d) = %.60q, %d", want, wantRow, u, e)
+	}
+	codes := plainCodes(s)
+	if l, _, e := concord.Codes(s); e != api.OK || !slices.Equal(l, codes[:]) {
+		t.Errorf("P2: Codes(%.60q) = %q, %d", s, l, e)
 	}
 }
