@@ -20,8 +20,8 @@ func (r Run) With(bit uint64) Run {
 	return Run{r.Size + 1, r.Bits<<1 | bit}
 }
 
-// bit gives the bit at a place.
-func (r Run) bit(place int) uint64 {
+// Bit gives the bit at a place.
+func (r Run) Bit(place int) uint64 {
 	return r.Bits >> (r.Size - 1 - place) & 1
 }
 
@@ -29,7 +29,7 @@ func (r Run) bit(place int) uint64 {
 func (r Run) Text() string {
 	text := make([]byte, r.Size)
 	for i := range text {
-		text[i] = '0' + byte(r.bit(i))
+		text[i] = '0' + byte(r.Bit(i))
 	}
 	return string(text)
 }
@@ -57,6 +57,9 @@ func Read(text string) ([]Run, bool) {
 	return append(runs, last), true
 }
 
+// Range is places one behind the other: from From up to To.
+type Range struct{ From, To int }
+
 // List is noughts and ones, any number of them. An empty one is ready for use.
 type List struct {
 	words      []uint64 // a word's highest bit comes first, and what is free in the last word is nought
@@ -68,7 +71,7 @@ type List struct {
 func (l *List) Lay(runs ...Run) {
 	for _, r := range runs {
 		for i := range r.Size {
-			l.layBit(r.bit(i))
+			l.layBit(r.Bit(i))
 		}
 	}
 }
@@ -98,6 +101,37 @@ func (l *List) Rank(place int) int {
 	}
 	word, within := place/wordSize, place%wordSize
 	return l.ahead[word] + bits.OnesCount64(l.words[word]>>(wordSize-within))
+}
+
+// Bit gives the bit at a place from 0 to below Size().
+func (l *List) Bit(place int) uint64 {
+	return l.words[place/wordSize] >> (wordSize - 1 - place%wordSize) & 1
+}
+
+// RankOf tells how many bits like this one there are ahead of a place from 0 to Size().
+func (l *List) RankOf(bit uint64, place int) int {
+	if bit == 0 {
+		return place - l.Rank(place)
+	}
+	return l.Rank(place)
+}
+
+// Among tells which of all bits like this one (numbered from 0 on) stand in ranges, one or many.
+// Ranges with none are left out, and those with none between them become one: so many do not stay many.
+func (l *List) Among(bit uint64, ranges ...Range) []Range {
+	var found []Range
+	for _, r := range ranges {
+		from, to := l.RankOf(bit, r.From), l.RankOf(bit, r.To)
+		last := len(found) - 1
+		switch {
+		case from == to:
+		case last >= 0 && found[last].To == from:
+			found[last].To = to
+		default:
+			found = append(found, Range{from, to})
+		}
+	}
+	return found
 }
 
 // Select tells the place of the k-th one, k from 0 to below Ones().

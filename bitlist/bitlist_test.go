@@ -1,6 +1,7 @@
 package bitlist
 
 import (
+	"slices"
 	"strings"
 	"testing"
 )
@@ -62,6 +63,54 @@ func TestRead(t *testing.T) {
 	for _, s := range []string{"2", "/", strings.Repeat("1", 64) + "a", "0\x00"} {
 		if runs, ok := Read(s); ok || runs != nil {
 			t.Errorf("Read(%q) = %v, %v", s, runs, ok)
+		}
+	}
+}
+
+// listOf lays a text of noughts and ones.
+func listOf(text string) *List {
+	runs, _ := Read(text)
+	l := &List{}
+	l.Lay(runs...)
+	return l
+}
+
+func TestBitAndRankOf(t *testing.T) {
+	text := strings.Repeat("0110100", 40)
+	l := listOf(text)
+	for i := range len(text) {
+		if got := l.Bit(i); got != uint64(text[i]-'0') {
+			t.Errorf("Bit(%d) = %d", i, got)
+		}
+	}
+	for i := range len(text) + 1 {
+		noughts, ones := strings.Count(text[:i], "0"), strings.Count(text[:i], "1")
+		if l.RankOf(0, i) != noughts || l.RankOf(1, i) != ones {
+			t.Errorf("RankOf at %d = %d, %d, want %d, %d", i, l.RankOf(0, i), l.RankOf(1, i), noughts, ones)
+		}
+	}
+}
+
+func TestAmong(t *testing.T) {
+	l := listOf("0110100")
+	for _, c := range []struct {
+		bit    uint64
+		ranges []Range
+		want   []Range
+	}{
+		{1, nil, nil},
+		{1, []Range{{0, 7}}, []Range{{0, 3}}},
+		{0, []Range{{0, 7}}, []Range{{0, 4}}},
+		{1, []Range{{0, 1}, {3, 4}, {7, 7}}, nil},
+		{0, []Range{{1, 3}, {4, 4}}, nil},
+		{1, []Range{{1, 2}, {4, 7}}, []Range{{0, 1}, {2, 3}}},
+		{1, []Range{{1, 2}, {2, 3}, {4, 5}}, []Range{{0, 3}}}, // just a nought between the second and the third
+		{0, []Range{{0, 1}, {3, 5}, {6, 7}}, []Range{{0, 2}, {3, 4}}},
+		{0, []Range{{6, 7}, {0, 1}}, []Range{{3, 4}, {0, 1}}},
+	} {
+		given := slices.Clone(c.ranges)
+		if got := l.Among(c.bit, c.ranges...); !slices.Equal(got, c.want) || !slices.Equal(c.ranges, given) {
+			t.Errorf("Among(%d, %v) = %v, want %v", c.bit, given, got, c.want)
 		}
 	}
 }

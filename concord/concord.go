@@ -6,6 +6,7 @@ import (
 	"concord/bitlist"
 	"concord/codes"
 	"concord/ends"
+	"concord/index"
 	"concord/turn"
 )
 
@@ -85,22 +86,54 @@ func Codes(t string) ([]string, int, api.Errno) {
 }
 
 // Index is an index.
-type Index struct{}
+type Index struct{ kept *index.Index }
+
+// none tells that no text is kept: Build gives nil with an error.
+func (x *Index) none() bool { return x == nil || x.kept == nil }
 
 // Build makes an index of a text (P7).
-func Build(t string, rate int) (*Index, api.Errno) { return nil, api.OK }
+func Build(t string, rate int) (*Index, api.Errno) {
+	if len(t) > api.MaxText {
+		return nil, api.ErrLong
+	}
+	if rate < 1 || rate > api.MaxRate {
+		return nil, api.ErrRate
+	}
+	turned, row := turn.Forth(t)
+	return &Index{index.Of(turned, row, rate)}, api.OK
+}
 
 // Len tells how long the text is (P7).
-func (x *Index) Len() int { return 0 }
+func (x *Index) Len() int {
+	if x.none() {
+		return 0
+	}
+	return x.kept.Len()
+}
 
 // Count tells how often a word is in the text (P8).
-func (x *Index) Count(p string) int { return 0 }
+func (x *Index) Count(p string) int {
+	if x.none() {
+		return 0
+	}
+	return x.kept.Count(p)
+}
 
 // Locate tells where (P8).
-func (x *Index) Locate(p string) []int { return nil }
+func (x *Index) Locate(p string) []int {
+	if x.none() {
+		return nil
+	}
+	return x.kept.Locate(p)
+}
 
 // Extract gives a piece of the text (P9).
-func (x *Index) Extract(a int, b int) (string, api.Errno) { return "", api.OK }
+func (x *Index) Extract(a int, b int) (string, api.Errno) {
+	if x.none() || a < 0 || b > x.Len() || a > b {
+		return "", api.ErrRange
+	}
+	return x.kept.Extract(a, b), api.OK
+}
 
 // Marshal writes an index as bytes (P10).
 func (x *Index) Marshal() string { return "" }

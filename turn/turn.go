@@ -46,19 +46,25 @@ func Back(b string, row int) (string, bool) {
 // leads tells, for each byte of a turned text, the row of the end that begins with it.
 // Ends with one first byte stand as the ends behind that byte do, so like bytes keep their order.
 func leads(b string) []int {
-	var counts, next [256]int
-	for k := range len(b) {
-		counts[b[k]]++
-	}
-	row := 1 // row 0 is the empty end's
-	for c, n := range counts {
-		next[c] = row
-		row += n
-	}
+	next := Starts(b)
 	rows := make([]int, len(b))
 	for k := range rows {
 		rows[k] = next[b[k]]
 		next[b[k]]++
 	}
 	return rows
+}
+
+// Starts tells, by a turned text, for each byte the row from which on the ends stand that begin with it.
+func Starts(b string) [256]int {
+	var counts, starts [256]int
+	for k := range len(b) {
+		counts[b[k]]++
+	}
+	row := 1 // row 0 is the empty end's
+	for c, n := range counts {
+		starts[c] = row
+		row += n
+	}
+	return starts
 }

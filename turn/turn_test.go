@@ -49,3 +49,12 @@ func TestLeads(t *testing.T) {
 		t.Errorf("leads = %v, want %v", got, want)
 	}
 }
+
+func TestStarts(t *testing.T) {
+	starts := Starts("annbaa")
+	for c, want := range map[byte]int{0: 1, 'a': 1, 'b': 4, 'c': 5, 'n': 5, 'o': 7, 255: 7} {
+		if starts[c] != want {
+			t.Errorf("Starts of %q = %d, want %d", c, starts[c], want)
+		}
+	}
+}
