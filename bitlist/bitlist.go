@@ -108,6 +108,16 @@ func (l *List) Bit(place int) uint64 {
 	return l.words[place/wordSize] >> (wordSize - 1 - place%wordSize) & 1
 }
 
+// Bytes gives all bits, eight a byte, the first one highest, with noughts behind up to a whole byte.
+func (l *List) Bytes() []byte {
+	bytes := make([]byte, (l.size+7)/8)
+	for i := range bytes {
+		place := i * 8
+		bytes[i] = byte(l.words[place/wordSize] >> (wordSize - 8 - place%wordSize))
+	}
+	return bytes
+}
+
 // RankOf tells how many bits like this one there are ahead of a place from 0 to Size().
 func (l *List) RankOf(bit uint64, place int) int {
 	if bit == 0 {

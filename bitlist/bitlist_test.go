@@ -114,3 +114,20 @@ func TestAmong(t *testing.T) {
 		}
 	}
 }
+
+func TestBytes(t *testing.T) {
+	for _, c := range []struct{ text, want string }{
+		{"", ""},
+		{"0", "\x00"},
+		{"1", "\x80"},
+		{"00000001", "\x01"},
+		{"000000011", "\x01\x80"},
+		{strings.Repeat("0", 63) + "1", "\x00\x00\x00\x00\x00\x00\x00\x01"},
+		{strings.Repeat("0", 63) + "11", "\x00\x00\x00\x00\x00\x00\x00\x01\x80"},
+		{strings.Repeat("01101001", 20), strings.Repeat("\x69", 20)},
+	} {
+		if got := listOf(c.text).Bytes(); string(got) != c.want {
+			t.Errorf("Bytes of %q = %q, want %q", c.text, got, c.want)
+		}
+	}
+}

@@ -23,12 +23,7 @@ type Tree struct {
 // Of keeps the bytes of a text.
 func Of(text string) Tree {
 	made := codes.Of(codes.Count(text))
-	t := Tree{size: len(text), codes: made, bytes: map[bitlist.Run]byte{}}
-	for c, code := range made {
-		if code.Size > 0 {
-			t.bytes[code] = byte(c)
-		}
-	}
+	t := Tree{size: len(text), codes: made, bytes: codes.Bytes(made)}
 	for i := range len(text) {
 		t.lay(made[text[i]])
 	}
@@ -50,6 +45,15 @@ func (t *Tree) lay(code bitlist.Run) {
 
 // Size tells how many bytes there are.
 func (t *Tree) Size() int { return t.size }
+
+// Text gives all of them.
+func (t *Tree) Text() string {
+	text := make([]byte, t.size)
+	for place := range text {
+		text[place], _ = t.At(place)
+	}
+	return string(text)
+}
 
 // At gives the byte at a place from 0 to below Size(), and how many like it stand ahead of it.
 func (t *Tree) At(place int) (byte, int) {

@@ -23,6 +23,9 @@ func TestAt(t *testing.T) {
 		if tree.Size() != len(text) {
 			t.Errorf("%q has %d bytes", text, tree.Size())
 		}
+		if got := tree.Text(); got != text {
+			t.Errorf("Text of %q = %q", text, got)
+		}
 		for i := range len(text) {
 			c, ahead := tree.At(i)
 			if want := strings.Count(text[:i], text[i:i+1]); c != text[i] || ahead != want {

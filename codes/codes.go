@@ -27,7 +27,7 @@ func Count(text string) [256]int {
 // Of gives the code of each byte, by how often each is there; that of a byte that is not there is empty.
 //
 // A code has to fit a run. It does: for a code of more than 64 bits the weights would have
-// to grow as the Fibonacci numbers do, to more than a text has bytes.
+// to grow as the Fibonacci numbers do, to more than 1<<45 together.
 func Of(counts [256]int) [256]bitlist.Run {
 	var made [256]bitlist.Run
 	trees := alone(counts)
@@ -39,6 +39,17 @@ func Of(counts [256]int) [256]bitlist.Run {
 		spell(join(trees), bitlist.Run{}, &made)
 	}
 	return made
+}
+
+// Bytes gives each byte that has a code, by its code.
+func Bytes(made [256]bitlist.Run) map[bitlist.Run]byte {
+	bytes := map[bitlist.Run]byte{}
+	for c, code := range made {
+		if code.Size > 0 {
+			bytes[code] = byte(c)
+		}
+	}
+	return bytes
 }
 
 // alone makes a tree of each byte that is there.

@@ -52,3 +52,16 @@ func TestOfLongestCodes(t *testing.T) {
 		t.Errorf("the longest code of %d bytes has %d bits", letters, longest)
 	}
 }
+
+func TestBytes(t *testing.T) {
+	made := Of(Count("\x00abba\xff\xffa"))
+	bytes := Bytes(made)
+	if len(bytes) != 4 {
+		t.Errorf("%d bytes have a code", len(bytes))
+	}
+	for _, c := range []byte("\x00ab\xff") {
+		if got, ok := bytes[made[c]]; !ok || got != c {
+			t.Errorf("the code of %d is that of %d, %v", c, got, ok)
+		}
+	}
+}

@@ -7,6 +7,7 @@ import (
 	"concord/codes"
 	"concord/ends"
 	"concord/index"
+	"concord/record"
 	"concord/turn"
 )
 
@@ -136,7 +137,19 @@ func (x *Index) Extract(a int, b int) (string, api.Errno) {
 }
 
 // Marshal writes an index as bytes (P10).
-func (x *Index) Marshal() string { return "" }
+func (x *Index) Marshal() string {
+	if x.none() {
+		return ""
+	}
+	turned, row, rate := x.kept.Parts()
+	return record.Record{Rate: rate, Row: row, Turned: turned}.Write()
+}
 
 // Unmarshal makes an index of bytes (P11).
-func Unmarshal(d string) (*Index, api.Errno) { return nil, api.OK }
+func Unmarshal(d string) (*Index, api.Errno) {
+	r, ok := record.Read(d)
+	if !ok {
+		return nil, api.ErrForm
+	}
+	return &Index{index.Of(r.Turned, r.Row, r.Rate)}, api.OK
+}

@@ -30,6 +30,12 @@ func Of(turned string, row int, rate int) *Index {
 	return x
 }
 
+// Parts gives what the text is turned, its row and the rate: all that the index was made of.
+func (x *Index) Parts() (string, int, int) {
+	turned, row := x.rows.Turned()
+	return turned, row, x.rate
+}
+
 // places tells from where on the end of each row is, going from the empty end to ever longer ones.
 func (x *Index) places() []int {
 	places := make([]int, x.Len()+1)

@@ -37,3 +37,14 @@ func TestNear(t *testing.T) {
 		}
 	}
 }
+
+func TestParts(t *testing.T) {
+	for _, text := range []string{"", "a", "abracadabra"} {
+		for rate := 1; rate < 4; rate++ {
+			wantTurned, wantRow := turn.Forth(text)
+			if turned, row, got := of(text, rate).Parts(); turned != wantTurned || row != wantRow || got != rate {
+				t.Errorf("of %q, %d: %q, %d, %d", text, rate, turned, row, got)
+			}
+		}
+	}
+}

@@ -19,6 +19,9 @@ func Of(turned string, whole int) Rows {
 	return Rows{bittree.Of(turned), turn.Starts(turned), whole}
 }
 
+// Turned gives what the text is turned, and its row.
+func (r *Rows) Turned() (string, int) { return r.turned.Text(), r.whole }
+
 // Len tells how long the text is.
 func (r *Rows) Len() int { return r.turned.Size() }
 

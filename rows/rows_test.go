@@ -15,6 +15,10 @@ var texts = []string{"", "a", "aaaa", "ab", "abab", "abracadabra", "\x00\xff\x00
 func TestAhead(t *testing.T) {
 	for _, text := range texts {
 		r := Of(turn.Forth(text))
+		wantTurned, wantRow := turn.Forth(text)
+		if turned, row := r.Turned(); turned != wantTurned || row != wantRow {
+			t.Errorf("%q is turned %q, %d, want %q, %d", text, turned, row, wantTurned, wantRow)
+		}
 		if r.Len() != len(text) || r.All() != (bitlist.Range{From: 0, To: len(text) + 1}) {
 			t.Errorf("of %q: %d, %v", text, r.Len(), r.All())
 		}
